@@ -1,0 +1,65 @@
+package tests
+
+import (
+	"testing"
+
+	"loop.example/g01331/impl"
+)
+
+// TestPromise12Bounds asks of all regular samples that they keep the bounds of Moore.
+func TestPromise12Bounds(t *testing.T) {
+	met := 0
+	for x := range sampleTables {
+		met += keepBounds(t, x.graph())
+	}
+	for n := int64(3); n <= impl.MaxVertices; n++ {
+		met += keepBounds(t, ring(n).graph())
+		met += keepBounds(t, complement(t, ring(n).graph()))
+	}
+	for diamonds := range 12 {
+		met += keepBounds(t, chain(shortEnd(), diamonds, shortEnd()).graph())
+	}
+	for _, name := range names() {
+		if twice, code := impl.PutBeside(named(t, name), named(t, name)); code == impl.ErrNone {
+			met += keepBounds(t, twice)
+		}
+	}
+	if met < 150 {
+		t.Errorf("%d graphs alone are regular", met)
+	}
+}
+
+// keepBounds returns 1 if g is regular of a degree of at least 2, and 0 if it is not.
+func keepBounds(t *testing.T, g impl.Graph) int {
+	t.Helper()
+	k, code := impl.RegularDegree(g)
+	if code != impl.ErrNone || k < 2 {
+		return 0
+	}
+	girth, code := impl.GirthOf(g)
+	wantCode(t, "GirthOf", code, impl.ErrNone)
+	least, code := impl.GirthBound(k, girth)
+	wantCode(t, "GirthBound", code, impl.ErrNone)
+	excess, code := impl.ExcessOf(g)
+	if g.Size < least || excess != g.Size-least || code != impl.ErrNone {
+		t.Errorf("%v has the girth bound %d and the excess %d, %d", g, least, excess, code)
+	}
+	connected, _ := impl.IsConnected(g)
+	moore, code := impl.IsMooreGraph(g)
+	if moore != (connected && excess == 0) || code != impl.ErrNone {
+		t.Errorf("%v is a Moore graph: %v, %d, with the excess %d", g, moore, code, excess)
+	}
+	if !connected {
+		wantError(t, "DefectOf", impl.ErrState, results(impl.DefectOf(g))...)
+		return 1
+	}
+	diameter, _, code := impl.DiameterOf(g)
+	wantCode(t, "DiameterOf", code, impl.ErrNone)
+	most, code := impl.DiameterBound(k, diameter)
+	wantCode(t, "DiameterBound", code, impl.ErrNone)
+	defect, code := impl.DefectOf(g)
+	if g.Size > most || defect != most-g.Size || code != impl.ErrNone {
+		t.Errorf("%v has the diameter bound %d and the defect %d, %d", g, most, defect, code)
+	}
+	return 1
+}
