@@ -272,7 +272,7 @@ func NamedGraph(name string) (Graph, int64) {
 	case "clebsch":
 		return graphWhere(16, func(v int64, w int64) bool { return countOf(v^w) == 1 || countOf(v^w) == 4 }), ErrNone
 	case "petersen":
-		return petersenGraph(), ErrNone
+		return ringGraph(5, 2), ErrNone
 	case "icosahedron":
 		return icosahedronGraph(), ErrNone
 	case "hoffmansingleton":
@@ -540,14 +540,16 @@ func jumpPlans() map[string]jumpPlan {
 	}
 }
 
-func petersenGraph() Graph {
+// ringGraph returns the ring graph (chapter 4) of n and k: the graph with the name petersen is that
+// of 5 and 2.
+func ringGraph(n int64, k int64) Graph {
 	pairs := pairSet{}
-	for i := range int64(5) {
-		pairs.join(i, (i+1)%5)
-		pairs.join(i, i+5)
-		pairs.join(i+5, (i+2)%5+5)
+	for i := range n {
+		pairs.join(i, (i+1)%n)
+		pairs.join(i, n+i)
+		pairs.join(n+i, n+(i+k)%n)
 	}
-	return graphOfPairs(10, pairs)
+	return graphOfPairs(2*n, pairs)
 }
 
 func icosahedronGraph() Graph {
