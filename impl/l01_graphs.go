@@ -247,13 +247,8 @@ func PutBeside(g Graph, h Graph) (Graph, int64) {
 
 // JumpGraph returns the jump graph of n, in 3..MaxVertices, and of a list of jumps, and ErrNone.
 func JumpGraph(n int64, jumps []int64) (Graph, int64) {
-	if n < minJumpSize || n > MaxVertices || len(jumps) > maxJumps {
+	if n < minJumpSize || n > MaxVertices || !areJumps(n, maxJumps, jumps) {
 		return Graph{}, ErrRange
-	}
-	for _, jump := range jumps {
-		if jump < 1 || jump > n-1 {
-			return Graph{}, ErrRange
-		}
 	}
 	return jumpGraph(n, jumps), ErrNone
 }
@@ -374,6 +369,19 @@ func isRenumbering(n int64, p []int64) bool {
 		met |= 1 << v
 	}
 	return met == allVertices(n)
+}
+
+// areJumps reports whether a list has at most so many numbers, and all of them are in 1..n - 1.
+func areJumps(n int64, most int, list []int64) bool {
+	if len(list) > most {
+		return false
+	}
+	for _, jump := range list {
+		if jump < 1 || jump > n-1 {
+			return false
+		}
+	}
+	return true
 }
 
 // allVertices returns the row with all vertices of a graph of the size n.
