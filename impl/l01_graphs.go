@@ -247,7 +247,7 @@ func PutBeside(g Graph, h Graph) (Graph, int64) {
 
 // JumpGraph returns the jump graph of n, in 3..MaxVertices, and of a list of jumps, and ErrNone.
 func JumpGraph(n int64, jumps []int64) (Graph, int64) {
-	if n < minJumpSize || n > MaxVertices || !areJumps(n, maxJumps, jumps) {
+	if n < minJumpSize || n > MaxVertices || !areNumbersUpTo(n-1, maxJumps, jumps) {
 		return Graph{}, ErrRange
 	}
 	return jumpGraph(n, jumps), ErrNone
@@ -371,13 +371,14 @@ func isRenumbering(n int64, p []int64) bool {
 	return met == allVertices(n)
 }
 
-// areJumps reports whether a list has at most so many numbers, and all of them are in 1..n - 1.
-func areJumps(n int64, most int, list []int64) bool {
+// areNumbersUpTo reports whether a list has at most so many numbers, and all of them are in
+// 1..greatest.
+func areNumbersUpTo(greatest int64, most int, list []int64) bool {
 	if len(list) > most {
 		return false
 	}
-	for _, jump := range list {
-		if jump < 1 || jump > n-1 {
+	for _, x := range list {
+		if x < 1 || x > greatest {
 			return false
 		}
 	}

@@ -24,7 +24,10 @@ func TestPromise12Bounds(t *testing.T) {
 			met += keepBounds(t, twice)
 		}
 	}
-	if met < 150 {
+	for x := range patternedTables {
+		met += keepBounds(t, x.graph())
+	}
+	if met < 1000 {
 		t.Errorf("%d graphs alone are regular", met)
 	}
 }
@@ -62,4 +65,34 @@ func keepBounds(t *testing.T, g impl.Graph) int {
 		t.Errorf("%v has the diameter bound %d and the defect %d, %d", g, most, defect, code)
 	}
 	return 1
+}
+
+// TestPromise12Strong asks of all connected strongly regular graphs that they are distance-regular, with arrays as the parameters tell, and of all with arrays of two numbers each that they are strongly regular.
+func TestPromise12Strong(t *testing.T) {
+	met := 0
+	for x := range allTables {
+		g := x.graph()
+		connected, _ := impl.IsConnected(g)
+		parameters, code := impl.ParametersOf(g)
+		b, c, other := impl.ArraysOf(g)
+		if !connected || code != impl.ErrNone {
+			if other == impl.ErrNone && len(b) == 2 {
+				t.Errorf("%v has the arrays %v and %v, and no parameters, %d", g, b, c, code)
+			}
+			continue
+		}
+		met++
+		n, k, l, m := parameters[0], parameters[1], parameters[2], parameters[3]
+		if regular, code := impl.IsDistanceRegular(g); !regular || code != impl.ErrNone {
+			t.Errorf("%v has the parameters %v, and is distance-regular: %v, %d", g, parameters, regular, code)
+		}
+		wantList(t, call("b of ArraysOf", g), b, other, k, k-l-1)
+		wantList(t, call("c of ArraysOf", g), c, other, 1, m)
+		if degree, code := impl.RegularDegree(g); n != g.Size || degree != k || code != impl.ErrNone || k*(k-l-1) != (n-k-1)*m {
+			t.Errorf("%v has the parameters %v, and the degree %d, %d", g, parameters, degree, code)
+		}
+	}
+	if met < 100 {
+		t.Errorf("%d graphs alone are connected and strongly regular", met)
+	}
 }
