@@ -493,9 +493,14 @@ func exchangeEdge(g Graph, a int64, b int64, before int64) (Graph, int64) {
 	}
 	changed := graphWithoutEdges(g.Size)
 	copy(changed.Rows, g.Rows)
-	changed.Rows[a] ^= 1 << b
-	changed.Rows[b] ^= 1 << a
+	turnEdge(changed, a, b)
 	return changed, ErrNone
+}
+
+// turnEdge writes an edge of a and b into the rows of g, or takes it out of them if it is there.
+func turnEdge(g Graph, a int64, b int64) {
+	g.Rows[a] ^= 1 << b
+	g.Rows[b] ^= 1 << a
 }
 
 func graphWithoutEdges(n int64) Graph {
