@@ -378,12 +378,14 @@ func areNumbersUpTo(greatest int64, most int, list []int64) bool {
 		return false
 	}
 	for _, x := range list {
-		if x < 1 || x > greatest {
+		if !isNumberUpTo(greatest, x) {
 			return false
 		}
 	}
 	return true
 }
+
+func isNumberUpTo(greatest int64, x int64) bool { return x >= 1 && x <= greatest }
 
 // allVertices returns the row with all vertices of a graph of the size n.
 func allVertices(n int64) int64 { return 1<<n - 1 }

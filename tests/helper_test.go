@@ -50,6 +50,21 @@ func tableOf(g impl.Graph) table {
 	return t
 }
 
+// firstPowers returns the table as numbers, and its power 0.
+func (t table) firstPowers() ([][]int64, [][]int64) {
+	once, unit := make([][]int64, len(t)), make([][]int64, len(t))
+	for v := range t {
+		once[v], unit[v] = make([]int64, len(t)), make([]int64, len(t))
+		unit[v][v] = 1
+		for w := range t {
+			if t[v][w] {
+				once[v][w] = 1
+			}
+		}
+	}
+	return once, unit
+}
+
 // edges returns the edges of the table in order.
 func (t table) edges() [][]int64 {
 	var list [][]int64
@@ -232,6 +247,9 @@ func wantError(t *testing.T, what string, code int64, results ...any) {
 		t.Errorf("%s: code %v, want %d", what, results[last], code)
 	}
 	for _, r := range results[:last] {
+		if x, ok := r.(impl.Digraph); ok {
+			r = impl.Graph(x)
+		}
 		if g, ok := r.(impl.Graph); ok {
 			if g.Size != 0 || len(g.Rows) != 0 {
 				t.Errorf("%s: %v beside an error", what, r)

@@ -49,16 +49,7 @@ func TestCountClosedOneByOne(t *testing.T) {
 // TestCountClosed takes the places of powers of the table that lie on the diagonal.
 func TestCountClosed(t *testing.T) {
 	for x := range sampleTables {
-		once, power := make([][]int64, len(x)), make([][]int64, len(x))
-		for v := range x {
-			once[v], power[v] = make([]int64, len(x)), make([]int64, len(x))
-			power[v][v] = 1
-			for w := range x {
-				if x[v][w] {
-					once[v][w] = 1
-				}
-			}
-		}
+		once, power := x.firstPowers()
 		for k := int64(0); k <= impl.MaxClosed; k++ {
 			for v := range x {
 				wantClosed(t, x.graph(), int64(v), k, power[v][v])
