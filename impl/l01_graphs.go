@@ -3,6 +3,7 @@ package impl
 import (
 	"iter"
 	"math/bits"
+	"slices"
 	"strconv"
 	"strings"
 )
@@ -493,8 +494,7 @@ func exchangeEdge(g Graph, a int64, b int64, before int64) (Graph, int64) {
 	if g.Rows[a]>>b&1 != before {
 		return Graph{}, ErrState
 	}
-	changed := graphWithoutEdges(g.Size)
-	copy(changed.Rows, g.Rows)
+	changed := copyOf(g)
 	turnEdge(changed, a, b)
 	return changed, ErrNone
 }
@@ -507,6 +507,10 @@ func turnEdge(g Graph, a int64, b int64) {
 
 func graphWithoutEdges(n int64) Graph {
 	return Graph{Size: n, Rows: make([]int64, n)}
+}
+
+func copyOf(g Graph) Graph {
+	return Graph{Size: g.Size, Rows: slices.Clone(g.Rows)}
 }
 
 func graphOfPairs(n int64, pairs pairSet) Graph {
