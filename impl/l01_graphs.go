@@ -394,6 +394,9 @@ func allVertices(n int64) int64 { return 1<<n - 1 }
 // countOf returns how many digits of a row are 1.
 func countOf(row int64) int64 { return int64(bits.OnesCount64(uint64(row))) }
 
+// firstOf returns the least vertex of a row that has one.
+func firstOf(row int64) int64 { return int64(bits.TrailingZeros64(uint64(row))) }
+
 // rowArrayOf takes at most MaxVertices rows.
 func rowArrayOf(rows []int64) rowArray {
 	padded := make([]int64, MaxVertices)
@@ -415,8 +418,8 @@ func turnedRows(rows rowArray) rowArray {
 // membersOf yields the vertices of a row, ascending.
 func membersOf(row int64) iter.Seq[int64] {
 	return func(yield func(int64) bool) {
-		for left := uint64(row); left != 0; left &= left - 1 {
-			if !yield(int64(bits.TrailingZeros64(left))) {
+		for left := row; left != 0; left &= left - 1 {
+			if !yield(firstOf(left)) {
 				return
 			}
 		}
@@ -451,7 +454,7 @@ func partsIn(g Graph) iter.Seq2[int64, int64] {
 	return func(yield func(int64, int64) bool) {
 		left := allVertices(g.Size)
 		for left != 0 {
-			even, odd := reachedFrom(g, int64(bits.TrailingZeros64(uint64(left))))
+			even, odd := reachedFrom(g, firstOf(left))
 			if !yield(even, odd) {
 				return
 			}

@@ -115,3 +115,71 @@ func TestAnswersOwnTheirMemory2(t *testing.T) {
 	impl.IsMooreGraph(square)
 	wantGuarded(t, "chapter 2", square.Rows, ringRows)
 }
+
+// TestPromise2MoreEdges asks that no distance and no girth is greater with an edge more.
+func TestPromise2MoreEdges(t *testing.T) {
+	for x := range sampleTables {
+		g := x.graph()
+		a := g.Size / 2
+		for b := range g.Size {
+			more, code := impl.PutEdge(g, a, b)
+			if code != impl.ErrNone {
+				continue
+			}
+			before, _ := impl.DistancesFrom(g, a)
+			behind, code := impl.DistancesFrom(more, a)
+			wantCode(t, "DistancesFrom", code, impl.ErrNone)
+			for v := range before {
+				if behind[v] > before[v] && before[v] >= 0 || behind[v] < 0 && before[v] >= 0 || behind[b] != 1 {
+					t.Errorf("from %d it is %v in %v, and with the edge to %d it is %v", a, before, g, b, behind)
+				}
+			}
+			girth, none := impl.GirthOf(g)
+			less, other := impl.GirthOf(more)
+			if none == impl.ErrNone && (other != impl.ErrNone || less > girth) {
+				t.Errorf("the girth of %v is %d, and %d, %d with an edge more", g, girth, less, other)
+			}
+			// A new cycle goes along the new edge and back along a way that was there.
+			if before[b] > 0 && (other != impl.ErrNone || less > before[b]+1) {
+				t.Errorf("the girth of %v is %d, %d, with a cycle of %d", more, less, other, before[b]+1)
+			}
+		}
+	}
+}
+
+// TestPromise2Renumbered asks that renumbering leads distances, levels, girths and shortest cycles along.
+func TestPromise2Renumbered(t *testing.T) {
+	for x := range sampleTables {
+		g := x.graph()
+		p := places(g.Size, 5)
+		h, code := impl.RenumberGraph(g, p)
+		wantCode(t, "RenumberGraph", code, impl.ErrNone)
+		one, none := impl.CountShortest(g)
+		two, other := impl.CountShortest(h)
+		if one != two || none != other {
+			t.Errorf("%v has %d, %d shortest cycles, and %d, %d renumbered", g, one, none, two, other)
+		}
+		for v := range g.Size {
+			there, code := impl.DistancesFrom(h, p[v])
+			wantCode(t, "DistancesFrom", code, impl.ErrNone)
+			var back []int64
+			for _, w := range p {
+				back = append(back, there[w])
+			}
+			distances, code := impl.DistancesFrom(g, v)
+			wantList(t, call("DistancesFrom renumbered", g, v), back, code, distances...)
+			girth, none := impl.GirthAt(g, v)
+			at, other := impl.GirthAt(h, p[v])
+			if girth != at || none != other {
+				t.Errorf("the girth at %d in %v is %d, %d, and %d, %d renumbered", v, g, girth, none, at, other)
+			}
+		}
+		for _, edge := range x.edges() {
+			through, none := impl.ShortestThrough(g, edge[0], edge[1])
+			along, other := impl.ShortestThrough(h, p[edge[0]], p[edge[1]])
+			if through != along || none != other {
+				t.Errorf("%d, %d shortest cycles go through %v in %v, and %d, %d renumbered", through, none, edge, g, along, other)
+			}
+		}
+	}
+}
